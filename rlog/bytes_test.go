@@ -83,8 +83,9 @@ func TestOfMembersThatAreNone(t *testing.T) {
 	}
 }
 
-// P8.5: every run of up to three bytes is a list just if a list is put so.
-func TestOfMembersOfAllShortBytes(t *testing.T) {
+// P8.5: every run of one and of two bytes, and of three behind the counts around
+// the edges, is a list just if a list is put so.
+func TestOfMembersOfShortBytes(t *testing.T) {
 	lists := map[string][]uint64{"\x00": nil}
 	for a := uint64(1); a < 1<<14; a++ {
 		lists[string(list(a))] = []uint64{a}
