@@ -260,6 +260,9 @@ func TestChangeOnAFullDisk(t *testing.T) {
 		if g.Up(1) || g.lines.Waiting() != 0 {
 			t.Errorf("%+v: up %v, %d wait", a, g.Up(1), g.lines.Waiting())
 		}
+		if g.Up(4) != (a.Kind == api.ActAdd) {
+			t.Errorf("%+v: 4 is up: %v", a, g.Up(4))
+		}
 		do(t, g, start(1))
 		if l, _ := g.nodes[1].node.Log().Members(); !slices.Equal(l, []uint64{1, 2, 3}) {
 			t.Errorf("%+v: members %v", a, l)

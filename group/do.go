@@ -85,23 +85,24 @@ func (g *Group) endTurn(p *place) api.Errno {
 	return api.OK
 }
 
-// change changes a node's members by one, Other. One that never was is there,
-// and up, as soon as it is a member; ErrRange, if it can't be (P11.3).
+// change changes a node's members by one, Other. With ActAdd one that never was
+// is there, and up, also where the Change is refused; ErrRange, if it can't be
+// (P11.3).
 func (g *Group) change(p *place, a api.Act) (uint64, api.Errno) {
 	_, was := g.nodes[a.Other]
-	if a.Other == 0 || a.Kind == api.ActAdd && !was && len(g.nodes) >= mostNodes {
+	comes := a.Kind == api.ActAdd && !was
+	if a.Other == 0 || comes && len(g.nodes) >= mostNodes {
 		return 0, api.ErrRange
+	}
+	if comes {
+		// No error: a disk that had room for a snapshot with members has some for
+		// one without.
+		g.add(a.Other, api.Snap{})
 	}
 	members, _ := p.node.Log().Members()
 	members = slices.DeleteFunc(members, func(m uint64) bool { return m == a.Other })
 	if a.Kind == api.ActAdd {
 		members = append(members, a.Other)
 	}
-	index, e := p.node.Change(members)
-	if e == api.OK && !was {
-		// No error: a disk that had room for a snapshot with members has some for
-		// one without.
-		g.add(a.Other, api.Snap{})
-	}
-	return index, e
+	return p.node.Change(members)
 }

@@ -243,33 +243,6 @@ func TestAdd(t *testing.T) {
 	}
 }
 
-// P11.3: ActAdd that isn't done: no node is made by it.
-func TestAddThatIsRefused(t *testing.T) {
-	g := led(t, roomy, 1, 2, 3)
-	fails(t, g, add(1, 0), api.ErrRange)
-	fails(t, g, add(2, 0), api.ErrRange)
-	fails(t, g, add(2, 7), api.ErrLeader)
-	fails(t, g, add(1, 1), api.ErrMember)
-	fails(t, g, add(1, 2), api.ErrMember)
-	fails(t, g, add(2, 2), api.ErrLeader)
-	if !slices.Equal(g.Nodes(), []uint64{1, 2, 3}) {
-		t.Errorf("nodes %v", g.Nodes())
-	}
-	fails(t, g, deliver, api.ErrNone)
-	// A leader that committed nothing in its term.
-	g = made(t, roomy, 1, 2)
-	for range 10 {
-		do(t, g, tick(1))
-	}
-	do(t, g, deliver)
-	do(t, g, deliver)
-	stands(t, g, 1, raft.Leader, 1, 1, 0)
-	fails(t, g, add(1, 3), api.ErrMember)
-	if !slices.Equal(g.Nodes(), []uint64{1, 2}) {
-		t.Errorf("nodes %v", g.Nodes())
-	}
-}
-
 // P11.3: nine are the most.
 func TestAddOfATenth(t *testing.T) {
 	g := led(t, roomy, 1, 2, 3, 4, 5, 6, 7, 8)

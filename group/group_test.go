@@ -275,13 +275,13 @@ func TestNodes(t *testing.T) {
 	do(t, g, crash(300))
 	is("ActCrash", 1, 5, 7, 300)
 	fails(t, g, add(7, 8), api.ErrLeader)
-	is("ActAdd that was refused", 1, 5, 7, 300)
+	is("ActAdd that was refused", 1, 5, 7, 8, 300)
 	fails(t, g, remove(1, 9), api.ErrMember)
-	is("ActRemove of one that never was", 1, 5, 7, 300)
+	is("ActRemove of one that never was", 1, 5, 7, 8, 300)
 	do(t, g, cut(50, 60))
-	is("ActCut of nodes that never were", 1, 5, 7, 300)
+	is("ActCut of nodes that never were", 1, 5, 7, 8, 300)
 	do(t, g, add(1, 5))
-	is("ActAdd of one that was", 1, 5, 7, 300)
+	is("ActAdd of one that was", 1, 5, 7, 8, 300)
 }
 
 // The example of the chapter: a group of one.

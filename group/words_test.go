@@ -202,8 +202,8 @@ func (w *byWords) ask(n *told, a api.Act) (uint64, api.Errno) {
 		l = append(l[:at], l[at+1:]...)
 	}
 	i, e := n.node.Change(l)
-	if e == api.OK && never {
-		w.make(a.Other, api.Snap{})
+	if a.Kind == api.ActAdd && never {
+		w.make(a.Other, api.Snap{}) // whatever became of the Change
 	}
 	return i, e
 }
