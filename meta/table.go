@@ -4,6 +4,7 @@ import (
 	"slices"
 
 	"plenum/api"
+	"plenum/twin"
 )
 
 // What a table has at most.
@@ -17,11 +18,11 @@ func (m *Machine) table(t api.Table) api.Result {
 	if !mayBe(t) || m.named(t.Name) || len(m.tables) >= api.MaxTables {
 		return api.Result{Err: api.ErrTable}
 	}
-	t = copyOfTable(t)
+	t = twin.Table(t)
 	t.Id = int64(len(m.tables)) + 1
 	t.Cols[t.Key].NotNull = true
 	m.tables = append(m.tables, t)
-	return api.Result{Tables: []api.Table{copyOfTable(t)}}
+	return api.Result{Tables: []api.Table{twin.Table(t)}}
 }
 
 // named answers whether there is a table with that name.
@@ -64,19 +65,4 @@ func indexesMayBe(l []int, cols []api.Col) bool {
 // isPlace answers whether a column stands at that place.
 func isPlace(place int, cols []api.Col) bool {
 	return 0 <= place && place < len(cols)
-}
-
-// copyOfTable answers a table that shares no memory with t.
-func copyOfTable(t api.Table) api.Table {
-	t.Cols, t.Indexes = slices.Clone(t.Cols), slices.Clone(t.Indexes)
-	return t
-}
-
-// copies answers the same of each of them.
-func copies(l []api.Table) []api.Table {
-	l = slices.Clone(l)
-	for i := range l {
-		l[i] = copyOfTable(l[i])
-	}
-	return l
 }

@@ -1,7 +1,6 @@
 package mvcc
 
 import (
-	"bytes"
 	"slices"
 	"sort"
 
@@ -66,23 +65,4 @@ func (c *cell) gc(ts uint64) int {
 	gone := len(c.versions) - from
 	c.versions = slices.Delete(c.versions, from, len(c.versions))
 	return gone
-}
-
-// copyOf answers a version that shares no memory with v.
-func copyOf(v api.Version) api.Version {
-	v.Val = bytes.Clone(v.Val)
-	v.Keys = slices.Clone(v.Keys)
-	for i := range v.Keys {
-		v.Keys[i] = bytes.Clone(v.Keys[i])
-	}
-	return v
-}
-
-// copies answers the same of each of them.
-func copies(l []api.Version) []api.Version {
-	l = slices.Clone(l)
-	for i := range l {
-		l[i] = copyOf(l[i])
-	}
-	return l
 }
