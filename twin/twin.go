@@ -31,6 +31,12 @@ func Cell(c api.Cell) api.Cell {
 	return c
 }
 
+// Seen answers what was seen, the same.
+func Seen(x api.Seen) api.Seen {
+	x.Key, x.Keys = bytes.Clone(x.Key), Texts(x.Keys)
+	return x
+}
+
 // Table answers the same table.
 func Table(t api.Table) api.Table {
 	t.Cols, t.Indexes = slices.Clone(t.Cols), slices.Clone(t.Indexes)

@@ -22,6 +22,10 @@ func cell(key string) api.Cell {
 	return api.Cell{Key: []byte(key), Versions: []api.Version{version(5), {}, version(3)}, Intent: version(0)}
 }
 
+func seen() api.Seen {
+	return api.Seen{Key: append(make([]byte, 0, 9), "key"...), Ts: 5, Txn: 7, Keys: texts()}
+}
+
 func table(name string) api.Table {
 	return api.Table{Id: 4, Name: name, Cols: []api.Col{{Name: "k", Kind: api.Int, NotNull: true}, {Name: "a", Kind: api.Text}}, Key: 1, Indexes: []int{1, 0}}
 }
@@ -113,6 +117,7 @@ func TestTwins(t *testing.T) {
 	isTwin(t, func() api.Version { return version(5) }, Version)
 	isTwin(t, func() []api.Version { return []api.Version{version(5), {}, version(3)} }, Versions)
 	isTwin(t, func() api.Cell { return cell("a") }, Cell)
+	isTwin(t, seen, Seen)
 	isTwin(t, func() api.Table { return table("t") }, Table)
 	isTwin(t, func() []api.Table { return []api.Table{table("t"), {}, table("u")} }, Tables)
 	isTwin(t, result, Result)
@@ -120,6 +125,7 @@ func TestTwins(t *testing.T) {
 	isTwin(t, none, Version)
 	isTwin(t, none, Versions)
 	isTwin(t, none, Cell)
+	isTwin(t, none, Seen)
 	isTwin(t, none, Table)
 	isTwin(t, none, Tables)
 	isTwin(t, none, Result)
